@@ -4,6 +4,7 @@ import (
 	"slices"
 
 	"merino/api"
+	"merino/names"
 )
 
 // mostListed is how many bales a list can name.
@@ -31,7 +32,7 @@ func changes() map[int]func(*state, api.Move) (int, api.Errno) {
 
 // clip registers a clip.
 func (s *state) clip(m api.Move) (int, api.Errno) {
-	if !isName(m.Name) || !isName(m.Owner) {
+	if !names.Valid(m.Name) || !names.Valid(m.Owner) {
 		return 0, api.ErrArg
 	}
 	for _, c := range s.clips.All() {
@@ -176,7 +177,7 @@ func (s *state) change(no, from, to int) api.Errno {
 
 // lot makes a lot.
 func (s *state) lot(m api.Move) (int, api.Errno) {
-	if !isName(m.Name) {
+	if !names.Valid(m.Name) {
 		return 0, api.ErrArg
 	}
 	if _, ok := s.lots.Get(m.Name); ok {
@@ -224,18 +225,4 @@ func (s *state) send(m api.Move) (int, api.Errno) {
 	}
 	s.lots = s.lots.Put(lot.Name, &api.Lot{Name: lot.Name, Bales: lot.Bales, Sent: true})
 	return 0, api.OK
-}
-
-// isName reports whether s can be the name of a clip, an owner or a lot.
-func isName(s string) bool {
-	if len(s) == 0 || len(s) > api.MaxName || s[0] < 'a' || s[0] > 'z' {
-		return false
-	}
-	for i := range len(s) {
-		c := s[i]
-		if (c < 'a' || c > 'z') && (c < '0' || c > '9') && c != '-' {
-			return false
-		}
-	}
-	return true
 }
