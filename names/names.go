@@ -1,4 +1,5 @@
-// Package names says what a name is: that of a clip, an owner, a lot or a buyer.
+// Package names says what a name is: that of a clip, an owner, a lot,
+// a buyer or an account.
 package names
 
 import "merino/api"
